@@ -26,6 +26,18 @@ func (e Entry) isZero() bool {
 	return e.Weight == 0
 }
 
+func (e Entry) isSummand() bool {
+	return ValidRow(e.Row) && isWithin(e.Weight, MaxWeight)
+}
+
+func (e Entry) row() []int {
+	return e.Row
+}
+
+func (e Entry) withRow(row []int) Entry {
+	return Entry{Row: row, Weight: e.Weight}
+}
+
 // summand is an element of a sum: elements that compare as 0 are added up, and those that are zero then are left out.
 type summand[T any] interface {
 	compare(other T) int
@@ -84,50 +96,73 @@ func sumOfSorted[T summand[T]](a []T, b []T) []T {
 	return sums.sum()
 }
 
-// ValidZSet reports whether entries are a Z-set.
-func ValidZSet(z []Entry) bool {
-	if !areSummands(z) {
+// weighted is a summand that gives a row a weight: an entry or an update.
+type weighted[T any] interface {
+	summand[T]
+	isSummand() bool
+	row() []int
+	withRow(row []int) T
+}
+
+// areSummands reports whether there are not too many items, each of which is valid in a list to be added up.
+func areSummands[T weighted[T]](items []T, limit int) bool {
+	if len(items) > limit {
 		return false
 	}
-	for i, e := range z {
-		if e.isZero() || len(e.Row) != len(z[0].Row) {
-			return false
-		}
-		if i > 0 && z[i-1].compare(e) >= 0 {
+	for _, item := range items {
+		if !item.isSummand() {
 			return false
 		}
 	}
 	return true
 }
 
-func areSummands(entries []Entry) bool {
-	if len(entries) > MaxEntries {
-		return false
-	}
-	for _, e := range entries {
-		if !ValidRow(e.Row) || !isWithin(e.Weight, MaxWeight) {
+// isSum reports whether items are ascending, all of the same width, and none of them zero.
+func isSum[T weighted[T]](items []T) bool {
+	for i, item := range items {
+		if item.isZero() || len(item.row()) != widthOf(items) {
+			return false
+		}
+		if i > 0 && items[i-1].compare(item) >= 0 {
 			return false
 		}
 	}
 	return true
+}
+
+// widthOf returns 0 for no items, which have no width: this is not a valid width anywhere.
+func widthOf[T weighted[T]](items []T) int {
+	if len(items) == 0 {
+		return 0
+	}
+	return len(items[0].row())
+}
+
+// copyItems copies the rows, too, because a result shares no memory with an argument.
+func copyItems[T weighted[T]](items []T) []T {
+	copied := make([]T, len(items))
+	for i, item := range items {
+		copied[i] = item.withRow(slices.Clone(item.row()))
+	}
+	return copied
+}
+
+// ValidZSet reports whether entries are a Z-set.
+func ValidZSet(z []Entry) bool {
+	return areSummands(z, MaxEntries) && isSum(z)
 }
 
 // copyZSet returns the empty Z-set for what is not a Z-set, as every function that returns one must.
-// It copies the rows, too, because a result shares no memory with an argument.
 func copyZSet(entries []Entry) []Entry {
 	if !ValidZSet(entries) {
 		return nil
 	}
-	z := make([]Entry, len(entries))
-	for i, e := range entries {
-		z[i] = Entry{Row: slices.Clone(e.Row), Weight: e.Weight}
-	}
-	return z
+	return copyItems(entries)
 }
 
 // Normalize adds the weights of equal rows.
 func Normalize(entries []Entry) []Entry {
-	if !areSummands(entries) {
+	if !areSummands(entries, MaxEntries) {
 		return nil
 	}
 	return copyZSet(sumOfList(entries))

@@ -1,5 +1,7 @@
 package impl
 
+import "cmp"
+
 // MaxTime is the maximum of the components of a time.
 const MaxTime = 99
 
@@ -17,11 +19,12 @@ func (t Time) lessEqual(other Time) bool {
 	return t.Epoch <= other.Epoch && t.Round <= other.Round
 }
 
+func (t Time) compare(other Time) int {
+	return cmp.Or(cmp.Compare(t.Epoch, other.Epoch), cmp.Compare(t.Round, other.Round))
+}
+
 func (t Time) before(other Time) bool {
-	if t.Epoch != other.Epoch {
-		return t.Epoch < other.Epoch
-	}
-	return t.Round < other.Round
+	return t.compare(other) < 0
 }
 
 func (t Time) join(other Time) Time {

@@ -1,11 +1,11 @@
 package tests
 
 import (
+	"cmp"
 	"fmt"
 	"maps"
 	"math"
 	"math/rand/v2"
-	"reflect"
 	"slices"
 	"testing"
 
@@ -114,83 +114,6 @@ func expectBool(t *testing.T, what string, got bool, want bool) {
 	}
 }
 
-// cloneEntries copies the spare capacity of rows and of the list, too.
-func cloneEntries(entries []impl.Entry) []impl.Entry {
-	whole := entries[:cap(entries)]
-	clone := make([]impl.Entry, len(whole))
-	for i, e := range whole {
-		clone[i] = entry(e.Weight, slices.Clone(e.Row[:cap(e.Row)])...)
-	}
-	return clone
-}
-
-// spacious returns equal entries, where the rows have spare capacity and so has the list.
-func spacious(entries []impl.Entry) []impl.Entry {
-	copied := make([]impl.Entry, 0, len(entries)+3)
-	for _, e := range entries {
-		copied = append(copied, entry(e.Weight, append(make([]int, 0, len(e.Row)+2), e.Row...)...))
-	}
-	return copied
-}
-
-// expectFreshZSets calls a function, overwrites all memory of its result, and then looks for
-// a difference in its arguments and in the rows of the result that were overwritten before others.
-func expectFreshZSets(t *testing.T, what string, call func(args [][]impl.Entry) []impl.Entry, args ...[]impl.Entry) {
-	t.Helper()
-	var before [][]impl.Entry
-	var given [][]impl.Entry
-	for _, arg := range args {
-		given = append(given, spacious(arg))
-		before = append(before, cloneEntries(given[len(given)-1]))
-	}
-	result := call(given)
-	if len(result) == 0 {
-		t.Errorf("%s is empty and shows nothing about memory", what)
-	}
-	for i, e := range result {
-		row := e.Row[:cap(e.Row)]
-		for j := range row {
-			row[j] = 5000 + i
-		}
-	}
-	for i, e := range result {
-		if slices.ContainsFunc(e.Row[:cap(e.Row)], func(value int) bool { return value != 5000+i }) {
-			t.Errorf("%s: row %d of the result shares memory with another one", what, i)
-		}
-	}
-	for i := range result[:cap(result)] {
-		result[:cap(result)][i] = impl.Entry{Weight: -1}
-	}
-	for i := range given {
-		if !reflect.DeepEqual(cloneEntries(given[i]), before[i]) {
-			t.Errorf("%s changes its argument %d or shares memory with it", what, i)
-		}
-	}
-}
-
-// expectFreshList does the same for functions of lists of values without memory of their own.
-func expectFreshList[T comparable](t *testing.T, what string, call func(args [][]T) []T, args ...[]T) {
-	t.Helper()
-	var before [][]T
-	var given [][]T
-	for _, arg := range args {
-		list := append(make([]T, 0, len(arg)+3), arg...)
-		given = append(given, list)
-		before = append(before, slices.Clone(list[:cap(list)]))
-	}
-	result := call(given)
-	if len(result) == 0 {
-		t.Errorf("%s is empty and shows nothing about memory", what)
-	}
-	// No argument consists of the zero value alone, so that clearing shows.
-	clear(result[:cap(result)])
-	for i, list := range given {
-		if !slices.Equal(list[:cap(list)], before[i]) {
-			t.Errorf("%s changes its argument %d or shares memory with it", what, i)
-		}
-	}
-}
-
 // invalidRows has a list for each way not to be a row.
 func invalidRows() map[string][]int {
 	return map[string][]int{
@@ -296,4 +219,114 @@ func invalidTimes() []impl.Time {
 		at(-1, 0), at(0, -1), at(-1, -1), at(impl.MaxTime+1, 0), at(0, impl.MaxTime+1),
 		at(math.MaxInt, 5), at(5, math.MaxInt), at(math.MinInt, 5), at(5, math.MinInt),
 	}
+}
+
+func update(weight int, time impl.Time, row ...int) impl.Update {
+	return impl.Update{Row: row, Time: time, Weight: weight}
+}
+
+func updates(list ...impl.Update) []impl.Update {
+	return list
+}
+
+// moved returns the entries as updates at one time.
+func moved(entries []impl.Entry, time impl.Time) []impl.Update {
+	var list []impl.Update
+	for _, e := range entries {
+		list = append(list, update(e.Weight, time, e.Row...))
+	}
+	return list
+}
+
+// randomUpdates returns updates in any order, with repeated rows and times and with weights that may be 0.
+func randomUpdates(r *rand.Rand, n int, width int) []impl.Update {
+	list := make([]impl.Update, n)
+	for i := range list {
+		list[i] = update(between(r, -3, 3), at(between(r, 0, 3), between(r, 0, 3)), randomList(r, width, 1)...)
+	}
+	return list
+}
+
+// randomTrace returns a small trace.
+func randomTrace(r *rand.Rand, width int) []impl.Update {
+	return consolidated(randomUpdates(r, r.IntN(21), width))
+}
+
+func compareUpdates(a impl.Update, b impl.Update) int {
+	return cmp.Or(slices.Compare(a.Row, b.Row), cmp.Compare(a.Time.Epoch, b.Time.Epoch), cmp.Compare(a.Time.Round, b.Time.Round))
+}
+
+// consolidated is the reference for traces: it adds up the weights at each time on its own.
+func consolidated(list []impl.Update) []impl.Update {
+	byTime := map[impl.Time][]impl.Entry{}
+	for _, u := range list {
+		byTime[u.Time] = append(byTime[u.Time], entry(u.Weight, u.Row...))
+	}
+	var sums []impl.Update
+	for time, entries := range byTime {
+		sums = append(sums, moved(sumOf(entries), time)...)
+	}
+	slices.SortFunc(sums, compareUpdates)
+	return sums
+}
+
+// accumulated is the reference for what a list of updates amounts to at a time.
+func accumulated(list []impl.Update, t impl.Time) []impl.Entry {
+	var entries []impl.Entry
+	for _, u := range list {
+		if below(u.Time, t) {
+			entries = append(entries, entry(u.Weight, u.Row...))
+		}
+	}
+	return sumOf(entries)
+}
+
+func sameUpdate(a impl.Update, b impl.Update) bool {
+	return a.Weight == b.Weight && compareUpdates(a, b) == 0
+}
+
+func expectTrace(t *testing.T, what string, got []impl.Update, want []impl.Update) {
+	t.Helper()
+	if !slices.EqualFunc(got, want, sameUpdate) {
+		t.Errorf("%s = %v, want %v", what, got, want)
+	}
+}
+
+// invalidUpdates has, for each way not to be valid in a list of updates, an update with the weight 1 otherwise.
+func invalidUpdates() map[string]impl.Update {
+	list := map[string]impl.Update{
+		"weight too large":      update(impl.MaxWeight+1, at(0, 0), 2),
+		"weight too small":      update(-impl.MaxWeight-1, at(0, 0), 2),
+		"the largest weight":    update(math.MaxInt, at(0, 0), 2),
+		"the smallest weight":   update(math.MinInt, at(0, 0), 2),
+		"weight 0, row invalid": update(0, at(0, 0)),
+	}
+	for name, row := range invalidRows() {
+		list["row "+name] = update(1, at(0, 0), row...)
+	}
+	for _, time := range invalidTimes() {
+		list[fmt.Sprint("time ", time)] = update(1, time, 2)
+	}
+	return list
+}
+
+// invalidTraces has a list for each way not to be a trace.
+func invalidTraces() map[string][]impl.Update {
+	lists := map[string][]impl.Update{
+		"too many updates":           moved(numbered(1, impl.MaxUpdates+1, 1), at(0, 0)),
+		"rows descend":               updates(update(1, at(0, 0), 2), update(1, at(0, 0), 1)),
+		"rows descend, times ascend": updates(update(1, at(0, 0), 2), update(1, at(1, 1), 1)),
+		"epochs descend":             updates(update(1, at(1, 0), 1), update(1, at(0, 0), 1)),
+		"rounds descend":             updates(update(1, at(0, 1), 1), update(1, at(0, 0), 1)),
+		"epochs descend, not rounds": updates(update(1, at(1, 0), 1), update(1, at(0, 1), 1)),
+		"an update twice":            updates(update(1, at(0, 0), 1), update(1, at(0, 0), 1)),
+		"widths differ":              updates(update(1, at(0, 0), 1), update(1, at(0, 0), 1, 2)),
+		"narrower at last":           updates(update(1, at(0, 0), 1, 2), update(1, at(0, 0), 1, 3), update(1, at(0, 0), 2)),
+		"weight 0":                   updates(update(1, at(0, 0), 1), update(0, at(0, 0), 2)),
+	}
+	for name, u := range invalidUpdates() {
+		lists[name] = updates(update(1, at(0, 0), 1), u)
+		lists["alone: "+name] = updates(u)
+	}
+	return lists
 }

@@ -173,8 +173,13 @@ func picked(list []int, indices []int) []int {
 	return out
 }
 
+// invalidColumns has a list for each way not to be valid for rows of width 2.
+func invalidColumns() [][]int {
+	return [][]int{nil, {}, {-1}, {2}, {0, 2}, {0, 1, -1}, {math.MaxInt}, {math.MinInt}, repeated(impl.MaxWidth+1, 0)}
+}
+
 func TestP04InvalidProjections(t *testing.T) {
-	for _, cols := range [][]int{nil, {}, {-1}, {2}, {0, 2}, {0, 1, -1}, {math.MaxInt}, {math.MinInt}, repeated(impl.MaxWidth+1, 0)} {
+	for _, cols := range invalidColumns() {
 		if row, ok := impl.ProjectRow([]int{4, 5}, cols); ok || row != nil {
 			t.Errorf("ProjectRow([4 5], %v) = %v, %v", cols, row, ok)
 		}
@@ -190,9 +195,7 @@ func TestP04InvalidProjections(t *testing.T) {
 	}
 }
 
-func TestProjectRowReturnsNewMemory(t *testing.T) {
-	expectFreshList(t, "ProjectRow", func(args [][]int) []int {
-		row, _ := impl.ProjectRow(args[0], args[1])
-		return row
-	}, []int{4, 5}, []int{0, 1})
+func TestRowFunctionsReturnNewMemory(t *testing.T) {
+	expectFresh(t, "ProjectRow", impl.ProjectRow, []int{4, 5}, []int{0, 1})
+	expectFresh(t, "DecodeRow", impl.DecodeRow, "1,2,3")
 }

@@ -315,14 +315,11 @@ func TestFrontierFunctionsReturnNewMemory(t *testing.T) {
 	f := []impl.Time{at(1, 2), at(3, 0)}
 	g := []impl.Time{at(0, 5), at(2, 1)}
 	mixed := []impl.Time{at(3, 3), at(2, 1), at(0, 5), at(1, 1), at(0, 5)}
-	minimal := func(args [][]impl.Time) []impl.Time { return impl.MinimalTimes(args[0]) }
-	join := func(args [][]impl.Time) []impl.Time { return impl.FrontierJoin(args[0], args[1]) }
-	meet := func(args [][]impl.Time) []impl.Time { return impl.FrontierMeet(args[0], args[1]) }
-	expectFreshList(t, "MinimalTimes", minimal, mixed)
-	expectFreshList(t, "MinimalTimes of a frontier", minimal, f)
-	expectFreshList(t, "FrontierJoin", join, f, g)
-	expectFreshList(t, "FrontierJoin of the same", join, f, f)
-	expectFreshList(t, "FrontierMeet", meet, f, g)
-	expectFreshList(t, "FrontierMeet of nothing", meet, f, nil)
-	expectFreshList(t, "FrontierMeet with nothing", meet, nil, f)
+	expectFresh(t, "MinimalTimes", impl.MinimalTimes, mixed)
+	expectFresh(t, "MinimalTimes of a frontier", impl.MinimalTimes, f)
+	expectFresh(t, "FrontierJoin", impl.FrontierJoin, f, g)
+	expectFresh(t, "FrontierJoin of the same", impl.FrontierJoin, f, f)
+	expectFresh(t, "FrontierMeet", impl.FrontierMeet, f, g)
+	expectFresh(t, "FrontierMeet of nothing", impl.FrontierMeet, f, nil)
+	expectFresh(t, "FrontierMeet with nothing", impl.FrontierMeet, nil, f)
 }
