@@ -87,15 +87,25 @@ func parseNumber(word string) (int, bool) {
 
 // ProjectRow returns the values of the given columns.
 func ProjectRow(row []int, cols []int) ([]int, bool) {
-	if !ValidRow(row) || len(cols) < 1 || len(cols) > MaxWidth {
+	if !ValidRow(row) || !areColumns(cols, len(row)) {
 		return nil, false
 	}
 	projected := make([]int, len(cols))
 	for i, col := range cols {
-		if col < 0 || col >= len(row) {
-			return nil, false
-		}
 		projected[i] = row[col]
 	}
 	return projected, true
+}
+
+// areColumns reports whether rows of a width can be projected to the columns.
+func areColumns(cols []int, width int) bool {
+	if len(cols) < 1 || len(cols) > MaxWidth {
+		return false
+	}
+	for _, col := range cols {
+		if col < 0 || col >= width {
+			return false
+		}
+	}
+	return true
 }

@@ -203,10 +203,15 @@ func Distinct(z []Entry) []Entry {
 	if !ValidZSet(z) {
 		return nil
 	}
+	return copyItems(positiveRows(z))
+}
+
+// positiveRows gives the rows with positive weight, which may be out of range, the weight 1, without copying them.
+func positiveRows(entries []Entry) []Entry {
 	var set []Entry
-	for _, e := range z {
+	for _, e := range entries {
 		if e.Weight > 0 {
-			set = append(set, Entry{Row: slices.Clone(e.Row), Weight: 1})
+			set = append(set, Entry{Row: e.Row, Weight: 1})
 		}
 	}
 	return set
