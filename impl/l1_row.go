@@ -36,6 +36,10 @@ func isWithin(number int, limit int) bool {
 	return -limit <= number && number <= limit
 }
 
+func isUpTo(number int, limit int) bool {
+	return 0 <= number && number <= limit
+}
+
 // ValidRow reports whether a row is valid.
 func ValidRow(row []int) bool {
 	return values(row).isRow()

@@ -12,7 +12,7 @@ type Time struct {
 }
 
 func (t Time) isValid() bool {
-	return 0 <= t.Epoch && t.Epoch <= MaxTime && 0 <= t.Round && t.Round <= MaxTime
+	return isUpTo(t.Epoch, MaxTime) && isUpTo(t.Round, MaxTime)
 }
 
 func (t Time) lessEqual(other Time) bool {
