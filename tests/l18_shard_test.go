@@ -7,6 +7,7 @@ import (
 	"runtime"
 	"slices"
 	"testing"
+	"time"
 
 	"loop.example/dataflow/impl"
 )
@@ -448,11 +449,11 @@ func TestP93P94NoWorkerIsLeft(t *testing.T) {
 		impl.ShardedReduce(z, 1, impl.Sum, 1, impl.MaxWorkers)
 	}
 	// A worker has ended its work when the call returns, but may need a moment to disappear.
-	for range 1000 {
+	for range 5000 {
 		if runtime.NumGoroutine() <= before {
 			return
 		}
-		runtime.Gosched()
+		time.Sleep(time.Millisecond)
 	}
 	t.Errorf("there are %d goroutines, and %d before", runtime.NumGoroutine(), before)
 }
