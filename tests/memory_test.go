@@ -70,13 +70,12 @@ func copyOf(v reflect.Value, copySlice func(v reflect.Value) reflect.Value) refl
 	return copied
 }
 
-// expectFresh calls a function with arguments whose slices have spare capacity. It expects that the call changes
-// none of them, and that no slice of the results shares memory with an argument or with another slice of the results.
-func expectFresh(t *testing.T, what string, function any, args ...any) {
+// expectUnchanged calls a function with arguments whose slices have spare capacity, and expects that the call changes
+// none of them. It returns the results and the memory of the arguments.
+func expectUnchanged(t *testing.T, what string, function any, args ...any) (results []reflect.Value, used []span) {
 	t.Helper()
 	f := reflect.ValueOf(function)
 	var given, before []reflect.Value
-	var used []span
 	for i, arg := range args {
 		v := reflect.Zero(f.Type().In(i))
 		if arg != nil {
@@ -87,8 +86,22 @@ func expectFresh(t *testing.T, what string, function any, args ...any) {
 		before = append(before, copyOf(v, upToCapacity))
 		used = append(used, spansOf(v)...)
 	}
+	results = f.Call(given)
+	for i, v := range given {
+		if !reflect.DeepEqual(copyOf(v, upToCapacity).Interface(), before[i].Interface()) {
+			t.Errorf("%s changes its argument %d", what, i)
+		}
+	}
+	return results, used
+}
+
+// expectFresh calls a function as expectUnchanged does. It also expects that no slice of the results shares memory
+// with an argument or with another slice of the results.
+func expectFresh(t *testing.T, what string, function any, args ...any) {
+	t.Helper()
+	results, used := expectUnchanged(t, what, function, args...)
 	shown := 0
-	for _, result := range f.Call(given) {
+	for _, result := range results {
 		for _, s := range spansOf(result) {
 			shown++
 			for _, other := range used {
@@ -101,10 +114,5 @@ func expectFresh(t *testing.T, what string, function any, args ...any) {
 	}
 	if shown == 0 {
 		t.Errorf("%s has an empty result, which shows nothing about memory", what)
-	}
-	for i, v := range given {
-		if !reflect.DeepEqual(copyOf(v, upToCapacity).Interface(), before[i].Interface()) {
-			t.Errorf("%s changes its argument %d", what, i)
-		}
 	}
 }
